@@ -13,6 +13,8 @@ type Queue struct {
 	now      int
 	last     int            // the highest number given so far: numbers never come again
 	requests map[int]*entry // by their numbers; what is told is deleted
+	flights  []flight       // the commands under way, as they were sent
+	head     int            // the page from which on the next command is looked for; Pages, behind the last one
 	disk     [api.Pages]content
 }
 
@@ -100,13 +102,48 @@ func (q *Queue) Disk() []byte {
 }
 
 // Step sends the next command (P7, P8).
-func (q *Queue) Step() (api.Command, bool) { return api.Command{}, false }
+func (q *Queue) Step() (api.Command, bool) {
+	q = q.orEmpty()
+	next := q.next()
+	if len(next) == 0 {
+		return api.Command{}, false
+	}
+	for _, e := range next {
+		e.state = underWay
+	}
+	q.flights = append(q.flights, next)
+	command := next.command()
+	q.head = command.Page + command.Count
+	return command, true
+}
 
 // Flights tells the commands under way (P8).
-func (q *Queue) Flights() []api.Command { return nil }
+func (q *Queue) Flights() []api.Command {
+	var commands []api.Command
+	for _, f := range q.orEmpty().flights {
+		commands = append(commands, f.command())
+	}
+	return commands
+}
 
 // Complete ends a command (P9).
-func (q *Queue) Complete(k int, fault bool) error { return nil }
+func (q *Queue) Complete(k int, fault bool) error {
+	q = q.orEmpty()
+	if k < 0 || k >= len(q.flights) {
+		return api.ErrCommand
+	}
+	ended := q.flights[k]
+	q.flights = slices.Delete(q.flights, k, k+1)
+	for _, e := range ended {
+		e.tries++
+		if fault {
+			e.miss(q.now)
+		} else {
+			e.succeed(&q.disk[e.page])
+		}
+	}
+	return nil
+}
 
 // Drive does all that is to be done (P10).
 func (q *Queue) Drive(faults []bool) int { return 0 }

@@ -373,9 +373,9 @@ func TestQueuesThatNewDidNotMake(t *testing.T) {
 			t.Errorf("P1: the time %d, the disk %v", q.Now(), q.Disk())
 		}
 		q.Tick()
-		q.Step()
-		q.Flights()
-		q.Complete(0, true)
+		steps(t, q, "none")
+		wantFlights(t, "P1", q)
+		wantKind(t, "P1: Complete", q.Complete(0, true), api.ErrCommand)
 		q.Drive([]bool{true})
 		q.Crash([]bool{true})
 	}
@@ -388,6 +388,11 @@ func TestNoGoroutineIsLeft(t *testing.T) {
 	q.Cancel(1)
 	q.Poll(1)
 	q.Tick()
+	q.Step()
+	q.Step()
+	q.Flights()
+	q.Complete(1, true)
+	q.Complete(0, false)
 	if after := runtime.NumGoroutine(); after > before {
 		t.Errorf("P1: %d goroutines, %d before", after, before)
 	}
