@@ -132,24 +132,42 @@ func (q *Queue) Complete(k int, fault bool) error {
 	if k < 0 || k >= len(q.flights) {
 		return api.ErrCommand
 	}
-	ended := q.flights[k]
-	q.flights = slices.Delete(q.flights, k, k+1)
-	for _, e := range ended {
-		e.tries++
-		if fault {
-			e.miss(q.now)
-		} else {
-			e.succeed(&q.disk[e.page])
-		}
-	}
+	q.finish(q.land(k), fault)
 	return nil
 }
 
 // Drive does all that is to be done (P10).
-func (q *Queue) Drive(faults []bool) int { return 0 }
+func (q *Queue) Drive(faults []bool) int {
+	q = q.orEmpty()
+	disk := q.startDisk()
+	defer disk.stop()
+	completed := 0
+	for {
+		q.sendAll()
+		switch {
+		case len(q.flights) > 0:
+			disk.carryOut(order{q.land(0), at(faults, completed)})
+			completed++
+		case len(q.Waiting()) > 0:
+			q.Tick()
+		default:
+			return completed
+		}
+	}
+}
 
 // Crash fails the power (P11).
-func (q *Queue) Crash(kept []bool) {}
+func (q *Queue) Crash(kept []bool) {
+	q = q.orEmpty()
+	for i, e := range q.writesUnderWay() {
+		if at(kept, i) {
+			q.disk[e.page] = e.data
+		}
+	}
+	clear(q.requests)
+	q.flights = nil
+	q.head = 0
+}
 
 // orEmpty stands an empty queue in for none: a call on a nil queue must not panic (P1).
 func (q *Queue) orEmpty() *Queue {
@@ -174,3 +192,6 @@ func (q *Queue) add(e entry) (int, error) {
 func (q *Queue) full() bool { return q.depth == 0 || len(q.requests) >= api.MaxRequests }
 
 func onDisk(page int) bool { return page >= 0 && page < api.Pages }
+
+// at reads a list of the caller's: behind its last value all are false, whatever its spare room holds.
+func at(list []bool, i int) bool { return i < len(list) && list[i] }

@@ -376,8 +376,10 @@ func TestQueuesThatNewDidNotMake(t *testing.T) {
 		steps(t, q, "none")
 		wantFlights(t, "P1", q)
 		wantKind(t, "P1: Complete", q.Complete(0, true), api.ErrCommand)
-		q.Drive([]bool{true})
-		q.Crash([]bool{true})
+		drive(t, q, faulty(3), 0, q.Now())
+		q.Crash(faulty(3))
+		wantNothing(t, q, 1)
+		wantDisk(t, "P1", q)
 	}
 }
 
@@ -393,6 +395,7 @@ func TestNoGoroutineIsLeft(t *testing.T) {
 	q.Flights()
 	q.Complete(1, true)
 	q.Complete(0, false)
+	q.Crash([]bool{true})
 	if after := runtime.NumGoroutine(); after > before {
 		t.Errorf("P1: %d goroutines, %d before", after, before)
 	}

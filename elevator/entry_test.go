@@ -125,6 +125,15 @@ func TestWhatIsToldIsHeldByItsCommandAlone(t *testing.T) {
 	}
 }
 
+func TestACrashLeavesNothingButWhatStays(t *testing.T) {
+	q := busy(t)
+	want := Queue{depth: q.depth, now: q.now, last: q.last, requests: map[int]*entry{}, disk: q.disk}
+	q.Crash([]bool{true})
+	if !reflect.DeepEqual(want, *q) {
+		t.Errorf("P11: %+v, want %+v", *q, want)
+	}
+}
+
 // No request of MaxTries tries waits so long, so MaxWait is seen only here.
 func TestPauseIsAtMostMaxWait(t *testing.T) {
 	var got []int

@@ -83,3 +83,28 @@ func together(ready []*entry) flight {
 	}
 	return chosen
 }
+
+// land takes the command at place k from those under way.
+func (q *Queue) land(k int) flight {
+	landed := q.flights[k]
+	q.flights = slices.Delete(q.flights, k, k+1)
+	return landed
+}
+
+// finish ends the try of each request of a command that has landed (P9).
+func (q *Queue) finish(command flight, fault bool) {
+	for _, e := range command {
+		e.tries++
+		if fault {
+			e.miss(q.now)
+		} else {
+			e.succeed(&q.disk[e.page])
+		}
+	}
+}
+
+// writesUnderWay stand as their commands were sent, and page by page: no page has two.
+func (q *Queue) writesUnderWay() []*entry {
+	all := slices.Concat(q.flights...)
+	return slices.DeleteFunc(all, func(e *entry) bool { return !e.write })
+}

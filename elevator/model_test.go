@@ -21,7 +21,7 @@ type asked struct {
 	tries, time           int
 }
 
-// model is P3 to P9 said once more, as plainly as can be: all requests that ever were, gone through anew at each call.
+// model is P3 to P11 said once more, as plainly as can be: all requests that ever were, gone through anew at each call.
 type model struct {
 	depth, now, head int
 	all              []*asked // the request n is at n-1
@@ -196,6 +196,49 @@ func (m *model) complete(k int, fault bool) error {
 	return nil
 }
 
+func (m *model) drive(faults []bool) int {
+	for completed := 0; ; {
+		_, sent := m.step()
+		switch {
+		case sent:
+		case len(m.flights) > 0:
+			m.complete(0, completed < len(faults) && faults[completed])
+			completed++
+		case len(m.waiting()) > 0:
+			m.now++
+		default:
+			return completed
+		}
+	}
+}
+
+func (m *model) crash(kept []bool) {
+	for _, c := range m.flights {
+		for _, n := range c.Requests {
+			if !c.Write || len(kept) == 0 {
+				continue
+			}
+			if kept[0] {
+				m.disk[m.all[n-1].page] = m.all[n-1].data
+			}
+			kept = kept[1:]
+		}
+	}
+	for _, a := range m.all {
+		a.waits, a.flies, a.told = false, false, true
+	}
+	m.flights, m.head = nil, 0
+}
+
+// chances is a list of any length up to most, in which so many of a hundred are true.
+func chances(r *rand.Rand, most, percent int) []bool {
+	list := make([]bool, r.Intn(most+1))
+	for i := range list {
+		list[i] = r.Intn(100) < percent
+	}
+	return list
+}
+
 // tell puts a call's answers into a text, an error's request and tries too.
 func tell(answers ...any) string {
 	for i, a := range answers {
@@ -215,6 +258,16 @@ func both(r *rand.Rand, q *elevator.Queue, m *model, pages, faults int) (string,
 	}
 	request := len(m.all) + 1 - r.Intn(60)
 	k, fault := r.Intn(m.depth+2)-1, r.Intn(100) < faults
+	if r.Intn(60) == 0 {
+		list := chances(r, 40, faults)
+		return tell("Drive", list), tell(q.Drive(list)), tell(m.drive(list))
+	}
+	if r.Intn(60) == 0 {
+		list := chances(r, 8, 50)
+		q.Crash(list)
+		m.crash(list)
+		return tell("Crash", list), "", ""
+	}
 	switch r.Intn(12) {
 	case 0, 1:
 		n, err := q.Read(page)
@@ -243,7 +296,7 @@ func both(r *rand.Rand, q *elevator.Queue, m *model, pages, faults int) (string,
 }
 
 func TestManyCallsAgainstTheModel(t *testing.T) {
-	for seed := range 120 {
+	for seed := range 240 {
 		r := rand.New(rand.NewSource(int64(seed)))
 		depth := 1 + seed%api.MaxDepth
 		q, m := open(t, depth), &model{depth: depth}
@@ -252,7 +305,7 @@ func TestManyCallsAgainstTheModel(t *testing.T) {
 		for i := range 600 {
 			call, got, want := both(r, q, m, pages, faults)
 			if got != want {
-				t.Fatalf("P3 to P9: seed %d, call %d: %s = %s, want %s", seed, i, call, got, want)
+				t.Fatalf("P3 to P11: seed %d, call %d: %s = %s, want %s", seed, i, call, got, want)
 			}
 			if !slices.Equal(q.Waiting(), m.waiting()) || q.Now() != m.now {
 				t.Fatalf("P6: seed %d, call %d: behind %s: Waiting() = %v, want %v; Now() = %d, want %d", seed, i, call, q.Waiting(), m.waiting(), q.Now(), m.now)
@@ -261,7 +314,7 @@ func TestManyCallsAgainstTheModel(t *testing.T) {
 				t.Fatalf("P8: seed %d, call %d: behind %s: Flights() = %s, want %s", seed, i, call, got, want)
 			}
 			if got, want := fmt.Sprint(q.Disk()), fmt.Sprint(slices.Concat(pagesOf(m)...)); got != want {
-				t.Fatalf("P9: seed %d, call %d: behind %s: Disk() = %s, want %s", seed, i, call, got, want)
+				t.Fatalf("P9 to P11: seed %d, call %d: behind %s: Disk() = %s, want %s", seed, i, call, got, want)
 			}
 		}
 	}
